@@ -98,7 +98,7 @@ func TestP45_1All(t *testing.T) {
 			t.Errorf("Read(%.20q): %v, %d", s, l, e)
 		}
 	}
-	// 16384 lines of four octets.
+	// Fourteen octets, again and again.
 	long := strings.Repeat("get 1234\nsync\n  "[:14], 4681)
 	if n := len(long); n != 65534 {
 		t.Fatalf("%d octets", n)
