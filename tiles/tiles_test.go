@@ -61,6 +61,66 @@ func TestP41_1LeastLevelFirst(t *testing.T) {
 	}
 }
 
+func TestP41_1GoesOn(t *testing.T) {
+	// A cell for whose quarters there is no room does not end it while there is room for those of another.
+	for _, x := range []struct {
+		r    api.Rect
+		most int
+		want []cell.Cell
+	}{
+		{window(0, 0, 0, 2), 2, []cell.Cell{at(0, 0, 31), at(0, 2, 32)}}, {window(0, 0, 2, 0), 2, []cell.Cell{at(0, 0, 31), at(2, 0, 32)}},
+		{window(0, 0, 0, 2), 1, []cell.Cell{at(0, 0, 30)}}, {window(0, 0, 0, 2), 3, []cell.Cell{at(0, 0, 32), at(0, 1, 32), at(0, 2, 32)}},
+		{window(0, 0, 8, 0), 2, []cell.Cell{at(0, 0, 29), at(8, 0, 32)}}, {window(7, 0, 15, 0), 2, []cell.Cell{at(7, 0, 32), at(8, 0, 29)}},
+		{window(0, 0, 8, 0), 3, []cell.Cell{at(0, 0, 30), at(4, 0, 30), at(8, 0, 32)}}, {window(0, 0, 8, 0), 4, []cell.Cell{at(0, 0, 31), at(2, 0, 31), at(4, 0, 30), at(8, 0, 32)}},
+		{window(0, 0, 4, 4), 4, []cell.Cell{at(0, 0, 30), at(4, 0, 30), at(0, 4, 30), at(4, 4, 32)}}, {window(3, 3, 7, 7), 5, []cell.Cell{at(3, 3, 32), at(4, 2, 31), at(6, 2, 31), at(0, 4, 30), at(4, 4, 30)}},
+		{window(top-2, top, top, top), 2, []cell.Cell{at(top-2, top, 32), at(top-1, top-1, 31)}},
+	} {
+		if got := tiles.Cover(x.r, x.most); !slices.Equal(got, x.want) {
+			t.Errorf("Cover(%v, %d): %v, want %v", x.r, x.most, got, x.want)
+		}
+	}
+}
+
+// plainly makes a cover as the document tells it: the levels from the least on, the cells of each in their order.
+func plainly(w api.Rect, most int) []cell.Cell {
+	l := []cell.Cell{cell.Root()}
+	for step := true; step; {
+		step = false
+		for level := 0; level < api.Levels && !step; level++ {
+			for i := 0; i < len(l) && !step; i++ {
+				kids := finer(l[i], w)
+				if l[i].Level != level || rect.Within(cell.Rect(l[i]), w) || len(l)-1+len(kids) > most {
+					continue
+				}
+				l = append(append(slices.Clone(l[:i]), kids...), l[i+1:]...)
+				step = true
+			}
+		}
+	}
+	return l
+}
+
+func finer(c cell.Cell, w api.Rect) []cell.Cell {
+	var l []cell.Cell
+	for q := range 4 {
+		if k := cell.Kid(c, q); !rect.Empty(rect.Cut(cell.Rect(k), w)) {
+			l = append(l, k)
+		}
+	}
+	return l
+}
+
+func TestP41_1AsTold(t *testing.T) {
+	r := rand.New(rand.NewPCG(41, 3))
+	for range 400 {
+		w := some(r)
+		most := 1 + r.IntN(20)
+		if got, want := tiles.Cover(w, most), plainly(w, most); !slices.Equal(got, want) {
+			t.Fatalf("Cover(%v, %d): %v, want %v", w, most, got, want)
+		}
+	}
+}
+
 func some(r *rand.Rand) api.Rect {
 	n := func() uint32 {
 		return []uint32{r.Uint32(), uint32(r.IntN(50)), top - uint32(r.IntN(3)), 1 << 31}[r.IntN(4)]
